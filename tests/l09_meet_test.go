@@ -2,7 +2,11 @@ package tests
 
 import (
 	"fmt"
+	"go/ast"
+	"go/parser"
+	"go/token"
 	"math/rand"
+	"path/filepath"
 	"reflect"
 	"slices"
 	"sync"
@@ -882,6 +886,57 @@ func TestThoseThatMeetAreToldTheSameAtOnce(t *testing.T) {
 	}
 	for _, got := range answers {
 		wantList(t, "asked at once", got, want...)
+	}
+}
+
+// namesIn tells of each function of the program which names stand in it.
+func namesIn(t *testing.T) map[string][]string {
+	files, err := filepath.Glob("../impl/*.go")
+	if err != nil || len(files) == 0 {
+		t.Fatalf("the program is not here: %v", err)
+	}
+	names := map[string][]string{}
+	for _, name := range files {
+		file, err := parser.ParseFile(token.NewFileSet(), name, nil, parser.SkipObjectResolution)
+		if err != nil {
+			t.Fatal(err)
+		}
+		for _, decl := range file.Decls {
+			f, is := decl.(*ast.FuncDecl)
+			if !is {
+				continue
+			}
+			ast.Inspect(f.Body, func(n ast.Node) bool {
+				if one, is := n.(*ast.Ident); is {
+					names[f.Name.Name] = append(names[f.Name.Name], one.Name)
+				}
+				return true
+			})
+		}
+	}
+	return names
+}
+
+// The map that is made once is read by one function that is called from outside, and by no other one, however far it calls.
+func TestNothingElseReadsTheMapThatIsMadeOnce(t *testing.T) {
+	names := namesIn(t)
+	reaches := map[string]int{"choosers": 1, "choosersOnce": 1}
+	for before := 0; before < len(reaches); {
+		before = len(reaches)
+		for f, list := range names {
+			if slices.ContainsFunc(list, func(name string) bool { return reaches[name] > 0 }) {
+				reaches[f] = 1
+			}
+		}
+	}
+	var exported []string
+	for f := range reaches {
+		if ast.IsExported(f) {
+			exported = append(exported, f)
+		}
+	}
+	if !slices.Equal(exported, []string{"Source"}) {
+		t.Errorf("the map is read by %v", exported)
 	}
 }
 
